@@ -179,6 +179,12 @@ func splitSign(t string) (string, string) {
 	return "", t
 }
 
+// isReference reports whether a type is that of a reference.
+func isReference(t string) bool {
+	sign, _ := splitSign(t)
+	return sign != ""
+}
+
 // kindName returns the type of a record of a module, both below 10.
 func kindName(m int, r int) string {
 	return string([]byte{'S', byte('0' + m), byte('0' + r)})

@@ -6,6 +6,7 @@ import (
 	"slices"
 	"strconv"
 	"strings"
+	"sync"
 	"testing"
 
 	"loop.example/heirlooms/impl"
@@ -140,9 +141,12 @@ func fixedNeeds() map[string]need {
 	return list
 }
 
+// fixedNeedsOnce are the fixedNeeds, which nothing changes.
+var fixedNeedsOnce = sync.OnceValue(fixedNeeds)
+
 // needOf tells by the document's words what is needed of an instruction at a shape.
 func (at stand) needOf(i impl.Ins) need {
-	if n, ok := fixedNeeds()[i.Op]; ok {
+	if n, ok := fixedNeedsOnce()[i.Op]; ok {
 		return n
 	}
 	n := need{empties: -1, fills: -1}
