@@ -219,7 +219,7 @@ func (r *running) step(i impl.Ins) int {
 		if r.top().stack = append(r.top().stack, took...); len(r.top().stack) > 12 {
 			return impl.EndWrong
 		}
-	case "read", "peek", "write":
+	case "field", "read", "peek", "write", "freeze":
 		return r.stepThere(at, i, took)
 	case "keep", "take", "has", "see", "seew":
 		return r.stepVault(at, i, took)
@@ -267,11 +267,6 @@ func (r *running) stepValues(at *level, i impl.Ins, took []impl.Value) int {
 	case "lend", "lendw":
 		sign := map[string]string{"lend": "&", "lendw": "!"}[i.Op]
 		put = []impl.Value{{Type: sign + at.places[i.A].Type, Path: []int{0, len(r.levels) - 1, i.A}}}
-	case "field":
-		t := took[0].Type[:1] + at.shelf[at.m].Records[i.B].Fields[i.A]
-		put = []impl.Value{{Type: t, Path: append(slices.Clone(took[0].Path), i.A)}}
-	case "freeze":
-		put = []impl.Value{{Type: "&" + took[0].Type[1:], Path: took[0].Path}}
 	}
 	at.stack = append(at.stack, put...)
 	return goesOn
@@ -286,7 +281,7 @@ func numberWanted(op string, a int, b int) int {
 	return map[string]int{"add": a + b, "sub": a - b, "mul": a * b, "div": a / by, "mod": a % by}[op]
 }
 
-// stepThere does an instruction that has what is where a reference leads. Values are never changed in place, so what is copied stays.
+// stepThere does an instruction that takes a reference off, for which something must be where that leads. Values are never changed in place, so what is copied stays.
 func (r *running) stepThere(at *level, i impl.Ins, took []impl.Value) int {
 	ref := took[0]
 	spot, fields := r.spotOf(ref.Path)
@@ -298,6 +293,11 @@ func (r *running) stepThere(at *level, i impl.Ins, took []impl.Value) int {
 		return impl.EndWrong
 	}
 	switch i.Op {
+	case "field":
+		t := ref.Type[:1] + at.shelf[at.m].Records[i.B].Fields[i.A]
+		at.stack = append(at.stack, impl.Value{Type: t, Path: append(slices.Clone(ref.Path), i.A)})
+	case "freeze":
+		at.stack = append(at.stack, impl.Value{Type: "&" + ref.Type[1:], Path: ref.Path})
 	case "read":
 		at.stack = append(at.stack, there)
 	case "peek":
@@ -731,19 +731,16 @@ func TestRunGone(t *testing.T) {
 		{"func 2 n : n : n :; lend 0; move 0; put 1; peek; ret", "4", "", "6/4", ""},
 		{"func 2 n : n : n :; lendw 0; move 0; put 1; num 5; write; move 1; ret", "4", "", "6/5", ""},
 		{"func 2 n : n : n :; lend 0; move 0; put 1; drop; move 1; ret", "4", "", "0/6: 4", ""},
-		{"func 2 n : n : n :; lendw 0; move 0; put 1; freeze; drop; move 1; ret", "4", "", "0/7: 4", ""},
-		{"func 2 S00 : S00 : S00 :; lend 0; move 0; put 1; field 0 0; drop; move 1; ret", "S00(4)", "", "0/7: S00(4)", ""},
-		{"func 2 S00 : S00 : S00 :; lend 0; move 0; put 1; field 0 0; read; ret", "S00(4)", "", "6/5", ""},
 		{"func 2 S00 : S00 : S00 :; lendw 0; field 0 0; move 0; put 1; num 5; write; move 1; ret", "S00(4)", "", "6/6", ""},
 		{"func 2 n : n : n :; lend 0; move 0; put 1; num 8; put 0; read; ret", "4", "", "0/7: 8", ""},
 		{"func 2 n : n n : n :; lendw 0; move 0; put 1; num 8; put 0; num 9; write; move 0; move 1; ret", "4", "", "0/10: 9; 4", ""},
 		{"func 2 S00 : n : :; lend 0; field 0 0; num 8; pack 0; put 0; read; ret", "S00(4)", "", "0/7: 8", ""},
 		{"func 2 S01 : n S01 : &n :; lend 0; field 0 1; field 0 0; put 1; lendw 0; field 0 1; num 8; pack 0; write; copy 1; read; move 0; ret", "S01(S00(4) +)", "", "0/13: 8; S01(S00(8) +)", ""},
 		{"func 2 n : n : :; lendw 0; lendw 0; num 5; write; num 6; write; move 0; ret", "4", "", "0/8: 6", ""},
-		{"func 2 o : n : S00 :; copy 0; see 0; copy 0; take 0; put 1; field 0 0; read; ret", "@1", "@1 S00(4)", "6/7", "@1 S00(4)"},
+		{"func 2 o : S00 : S00 :; copy 0; see 0; copy 0; take 0; put 1; read; ret", "@1", "@1 S00(4)", "6/6", "@1 S00(4)"},
 		{"func 2 o : n : S00 :; copy 0; see 0; copy 0; take 0; put 1; num 9; pack 0; copy 0; keep 0; field 0 0; read; ret", "@1", "@1 S00(4)", "0/12: 9", "@1 S00(9)"},
 		{"func 2 o : : S00 :; copy 0; seew 0; copy 0; take 0; put 1; num 9; pack 0; write; ret", "@1", "@1 S00(4); @2 S00(5)", "6/8", "@1 S00(4); @2 S00(5)"},
-		{"func 2 o : : :; copy 0; seew 0; copy 0; take 0; drop; field 0 0; drop; ret", "@1", "@1 S00(4)", "0/8", ""},
+		{"func 2 o : : :; copy 0; seew 0; copy 0; take 0; drop; drop; ret", "@1", "@1 S00(4)", "0/7", ""},
 		{"func 2 o : S00 : :; copy 0; see 0; copy 0; take 0; me; keep 0; read; ret", "@1", "@1 S00(4)", "6/7", "@1 S00(4)"},
 		{"func 2 o : S00 : :; me; see 0; copy 0; take 0; drop; read; ret", "@1", "@1 S00(4); @2 S00(5)", "0/7: S00(5)", "@2 S00(5)"},
 		{"func 2 : n : :; call 0 1; read; ret; func 0 : &n : n :; num 7; put 0; lend 0; ret", "", "", "6/6", ""},
@@ -754,7 +751,40 @@ func TestRunGone(t *testing.T) {
 		{"func 2 : n : :; call 0 1; true; call 0 2; ret; func 0 : &n : b n :; num 7; put 1; lend 1; ret; func 0 &n b : n : :; copy 0; read; ret", "", "", "6/9", ""},
 		{"func 2 : n : :; call 0 1; call 0 2; ret; func 0 : &n : b n :; num 7; put 1; lend 1; ret; func 0 &n : n : :; copy 0; read; ret", "", "", "6/8", ""},
 		{"func 2 : n : :; call 0 1; call 0 2; ret; func 0 : &n : b S00 :; num 7; pack 0; put 1; lend 1; field 0 0; ret; func 0 &n : n : n :; num 3; put 1; copy 0; read; ret", "", "", "6/12", ""},
-		{"func 2 : n : :; num 6; pack 0; call 0 1; call 0 2; ret; func 0 S00 : !S00 n : n :; lendw 0; num 5; ret; func 0 !S00 n : n : :; num 0; put 1; move 0; field 0 0; num 3; write; num 2; ret", "", "", "6/13", ""},
+		{"func 2 : n : :; num 6; pack 0; call 0 1; call 0 2; ret; func 0 S00 : !S00 n : n :; lendw 0; num 5; ret; func 0 !S00 n : n : :; num 0; put 1; move 0; field 0 0; num 3; write; num 2; ret", "", "", "6/11", ""},
+	})
+}
+
+// TestRunGoneOn takes `field` and `freeze` of references that lead to nothing, or to something of another type: that goes wrong there, though they do not look at it.
+// To drop such a reference, or to move it about, does not, and what is there again is not gone.
+func TestRunGoneOn(t *testing.T) {
+	checkVaults(t, []keptRow{
+		{"func 2 S00 : S00 : S00 :; lend 0; move 0; put 1; field 0 0; drop; move 1; ret", "S00(4)", "", "6/4", ""},
+		{"func 2 S00 : S00 : S00 :; lendw 0; move 0; put 1; field 0 0; drop; move 1; ret", "S00(4)", "", "6/4", ""},
+		{"func 2 S00 : S00 : S00 :; lend 0; move 0; put 1; drop; move 1; ret", "S00(4)", "", "0/6: S00(4)", ""},
+		{"func 2 S00 : S00 : &S00 S00 :; lend 0; put 1; move 0; put 2; copy 1; put 1; move 1; drop; move 2; ret", "S00(4)", "", "0/10: S00(4)", ""},
+		{"func 2 S00 : S00 : S00 :; lendw 0; move 0; put 1; call 0 1; drop; move 1; ret; func 0 !S00 : !S00 : :; move 0; ret", "S00(4)", "", "0/9: S00(4)", ""},
+		{"func 2 S00 : n : S00 :; lend 0; move 0; put 1; num 8; pack 0; put 0; field 0 0; read; ret", "S00(4)", "", "0/9: 8", ""},
+		{"func 2 n : n : n :; lendw 0; move 0; put 1; freeze; drop; move 1; ret", "4", "", "6/4", ""},
+		{"func 2 n : n : n :; lendw 0; move 0; put 1; drop; move 1; ret", "4", "", "0/6: 4", ""},
+		{"func 2 n : n : n :; lendw 0; move 0; put 1; num 8; put 0; freeze; read; ret", "4", "", "0/8: 8", ""},
+		{"func 2 S00 : n : S00 :; lendw 0; field 0 0; move 0; put 1; freeze; drop; num 5; ret", "S00(4)", "", "6/5", ""},
+		{"func 2 S01 : S01 : S01 :; lend 0; field 0 1; move 0; put 1; field 0 0; drop; move 1; ret", "S01(S00(4) +)", "", "6/5", ""},
+		{"func 2 o : n : S00 :; copy 0; see 0; copy 0; take 0; put 1; field 0 0; drop; num 5; ret", "@1", "@1 S00(4); @2 S00(5)", "6/6", "@1 S00(4); @2 S00(5)"},
+		{"func 2 o : n : S00 :; copy 0; seew 0; copy 0; take 0; put 1; field 0 0; drop; num 5; ret", "@1", "@1 S00(4); @2 S00(5)", "6/6", "@1 S00(4); @2 S00(5)"},
+		{"func 2 o : n : S00 :; copy 0; seew 0; copy 0; take 0; put 1; freeze; drop; num 5; ret", "@1", "@1 S00(4); @2 S00(5)", "6/6", "@1 S00(4); @2 S00(5)"},
+		{"func 2 o : n : S00 :; copy 0; seew 0; field 0 0; copy 0; take 0; put 1; freeze; drop; num 5; ret", "@1", "@1 S00(4)", "6/7", "@1 S00(4)"},
+		{"func 2 o : n : S00 :; copy 0; seew 0; copy 0; take 0; put 1; drop; num 5; ret", "@1", "@1 S00(4); @2 S00(5)", "0/8: 5", "@2 S00(5)"},
+		{"func 2 o : n : :; copy 0; seew 0; copy 0; take 0; copy 0; keep 0; freeze; field 0 0; read; ret", "@1", "@1 S00(4)", "0/10: 4", "@1 S00(4)"},
+		{"func 2 o : n : :; copy 0; seew 0; copy 0; take 0; me; keep 0; freeze; drop; num 5; ret", "@1", "@1 S00(4)", "6/7", "@1 S00(4)"},
+		{"func 2 : : :; call 0 1; field 0 0; drop; ret; func 0 : &S00 : S00 :; num 7; pack 0; put 0; lend 0; ret", "", "", "6/7", ""},
+		{"func 2 : : :; call 0 1; freeze; drop; ret; func 0 : !n : n :; num 7; put 0; lendw 0; ret", "", "", "6/6", ""},
+		{"func 2 : : :; call 0 1; drop; ret; func 0 : !n : n :; num 7; put 0; lendw 0; ret", "", "", "0/7", ""},
+		// Of another type: a place of a function that is gone is that of a later one now.
+		{"func 2 : : :; call 0 1; true; call 0 2; ret; func 0 : !n : b n :; num 7; put 1; lendw 1; ret; func 0 !n b : : :; move 0; freeze; drop; ret", "", "", "6/9", ""},
+		{"func 2 : : :; call 0 1; num 8; call 0 2; ret; func 0 : !n : b n :; num 7; put 1; lendw 1; ret; func 0 !n n : : :; move 0; freeze; drop; ret", "", "", "0/12", ""},
+		{"func 2 : : :; call 0 1; call 0 2; ret; func 0 : &S00 : b S00 :; num 7; pack 0; put 1; lend 1; ret; func 0 &S00 : : n :; num 3; put 1; move 0; field 0 0; drop; ret", "", "", "6/11", ""},
+		{"func 2 : : :; call 0 1; call 0 2; ret; func 0 : &S00 : b S00 :; num 7; pack 0; put 1; lend 1; ret; func 0 &S00 : : S00 :; num 3; pack 0; put 1; move 0; field 0 0; drop; ret", "", "", "0/15", ""},
 	})
 }
 
