@@ -65,9 +65,12 @@ func (a asked) okWanted() bool {
 
 // A ran is what is told of a run.
 type ran struct {
-	out   impl.Outcome
-	words []string
-	apart bool
+	out     impl.Outcome
+	words   []string
+	apart   bool
+	made    map[string]int // by the word and the kind, with a blank between
+	modules []int
+	deep    int
 }
 
 // A level is a function within others: where it is, its stack and its places, and its next instruction.
@@ -85,6 +88,7 @@ type running struct {
 	levels      []*level
 	n           int
 	rets        []impl.Value
+	made        map[string]int
 }
 
 // goesOn is the code of an instruction that does not end a run.
@@ -93,9 +97,9 @@ const goesOn = -1
 // wanted tells by the document's words what is told of a run.
 func (a asked) wanted() ran {
 	if !a.okWanted() {
-		return ran{impl.Outcome{Code: impl.EndNone}, nil, true}
+		return ran{out: impl.Outcome{Code: impl.EndNone}, apart: true}
 	}
-	r := &running{shelf: cloneShelf(a.shelf), kept: map[string]impl.Value{}, owner: a.owner, fuel: a.fuel}
+	r := &running{shelf: cloneShelf(a.shelf), kept: map[string]impl.Value{}, owner: a.owner, fuel: a.fuel, made: map[string]int{}}
 	for m, module := range r.shelf {
 		for f := range module.Funcs {
 			module.Funcs[f].Takes = []int{0, 1, 2}[:len(r.shelf[m].Records)]
@@ -105,7 +109,7 @@ func (a asked) wanted() ran {
 		r.kept[strconv.Itoa(kept.Owner)+" "+kept.Of.Type] = kept.Of
 	}
 	r.enter(a.m, a.f, a.args)
-	told := ran{apart: true}
+	told := ran{apart: true, made: r.made, deep: 1}
 	for code := goesOn; ; {
 		i, ok := r.top().ahead()
 		switch {
@@ -116,13 +120,17 @@ func (a asked) wanted() ran {
 		default:
 			r.fuel--
 			told.words = append(told.words, i.Op)
+			told.modules = append(told.modules, r.top().m)
 			code = r.step(i)
 		}
 		if code != goesOn {
 			told.out = r.outcome(a.vaults, code)
+			slices.Sort(told.modules)
+			told.modules = slices.Compact(told.modules)
 			return told
 		}
 		told.apart = told.apart && r.apart()
+		told.deep = max(told.deep, len(r.levels))
 	}
 }
 
@@ -163,8 +171,8 @@ func markAll(values []impl.Value) []impl.Mark {
 	return list
 }
 
-// wrong reports whether an instruction has not what it needs, but for what is where a reference leads.
-func (at *level) wrong(i impl.Ins) bool {
+// needed is what an instruction needs of a function, and puts.
+func (at *level) needed(i impl.Ins) need {
 	at.s = impl.Shape{Stack: markAll(at.stack), Places: markAll(at.places)}
 	n := at.needOf(i)
 	if i.Op == "ret" {
@@ -177,7 +185,12 @@ func (at *level) wrong(i impl.Ins) bool {
 	if i.Op == "call" {
 		n.on = nil
 	}
-	if n.place || n.own || n.call || at.stackBad(n) || len(at.stack)-len(n.off)+len(n.on) > 12 {
+	return n
+}
+
+// lacks reports whether an instruction has not what it needs, but for what is where a reference leads, and for room.
+func (at *level) lacks(n need) bool {
+	if n.place || n.own || n.call || at.stackBad(n) {
 		return true
 	}
 	return slices.ContainsFunc(n.copied, func(t string) bool { return !at.can(t, 1) }) ||
@@ -187,10 +200,17 @@ func (at *level) wrong(i impl.Ins) bool {
 // step does an instruction, and returns the code with which the run ends, or goesOn.
 func (r *running) step(i impl.Ins) int {
 	at := r.top()
-	if at.wrong(i) {
+	n := at.needed(i)
+	if at.lacks(n) {
 		return impl.EndWrong
 	}
-	off := at.needOf(i).off
+	if i.Op == "pack" || i.Op == "unpack" {
+		r.made[i.Op+" "+at.ownKind(i.A)]++
+	}
+	if len(at.stack)-len(n.off)+len(n.on) > 12 {
+		return impl.EndWrong
+	}
+	off := n.off
 	rest := len(at.stack) - len(off)
 	took := slices.Clone(at.stack[rest:])
 	at.stack = at.stack[:rest:rest]
@@ -428,10 +448,18 @@ func (a asked) check(t *testing.T) ran {
 
 // runShelf is a shelf of three modules with functions: those of each module are told by a text, and ` / ` parts modules, `; ` lines.
 // S01, S11 and S12 can neither be copied nor dropped, S20 cannot be copied, and S21 not be dropped; S02, S12 and S21 cannot be kept; S12 has no fields. The second module is a friend of the first one.
-func runShelf(funcs string) []impl.Module {
+func runShelf(funcs string) []impl.Module { return shelfOf(headsRun(), funcs) }
+
+// headsRun are the records and friends of the modules of runShelf.
+func headsRun() []string {
+	return []string{"record 15 n\nrecord 12 S00 b\nrecord 3 n\nfriend 1\n", "record 15 n b\nrecord 8 S01 n o\nrecord 4\n", "record 10 n\nrecord 1 n\n"}
+}
+
+// shelfOf is a shelf of modules with such records and friends, and functions as a text tells them (runShelf).
+func shelfOf(heads []string, funcs string) []impl.Module {
 	shelf := []impl.Module{}
 	texts := strings.Split(funcs, " / ")
-	for m, head := range []string{"record 15 n\nrecord 12 S00 b\nrecord 3 n\nfriend 1\n", "record 15 n b\nrecord 8 S01 n o\nrecord 4\n", "record 10 n\nrecord 1 n\n"} {
+	for m, head := range heads {
 		if m < len(texts) && texts[m] != "" {
 			head += strings.ReplaceAll(texts[m], "; ", "\n") + "\n"
 		}
@@ -446,7 +474,12 @@ func runShelf(funcs string) []impl.Module {
 
 // askedOf is a run of the first function of the last module that a text tells (runShelf), by the owner 2, with arguments and vaults as texts parted by `; `, and 100 of fuel.
 func askedOf(funcs string, args string, vaults string) asked {
-	a := asked{shelf: runShelf(funcs), owner: 2, m: strings.Count(funcs, " / "), fuel: 100}
+	return askedIn(headsRun(), funcs, args, vaults)
+}
+
+// askedIn is such a run of a shelf with other records and friends (shelfOf).
+func askedIn(heads []string, funcs string, args string, vaults string) asked {
+	a := asked{shelf: shelfOf(heads, funcs), owner: 2, m: strings.Count(funcs, " / "), fuel: 100}
 	for _, text := range textsOf(args) {
 		a.args = append(a.args, read(a.kinds(), text))
 	}
@@ -1197,6 +1230,7 @@ func kindsRun() [][][]impl.Record {
 		{{rec(12, "n"), rec(15, "n", "b"), rec(12, "S00")}, {rec(8, "S02", "n"), rec(10, "n", "S01"), rec(4)}, {rec(12, "S00"), rec(3, "S01")}},
 		{{rec(15, "n"), rec(15, "S00", "n"), rec(12, "S01", "S00")}},
 		{{rec(12, "o", "n"), rec(14, "n")}, {rec(12, "S00", "S01"), rec(15, "b")}},
+		{{rec(12, "n"), rec(12, "S00"), rec(12, "S01", "S00")}, {rec(12, "S02", "S01"), rec(12, "S10", "b"), rec(13, "n")}, {rec(12, "S11")}},
 	}
 }
 
@@ -1450,11 +1484,8 @@ func askedGood() asked {
 	return askedOf("func 2 n S01 : n S01 S00 : S00 : 0; me; take 0; put 2; copy 0; pack 0; me; keep 0; copy 0; move 1; copy 2; ret; func 0 : : :; ret; func 1 : : :; ret; func 2 : : :; lend 0", "5; S01(S00(4) +)", "@1 S00(7); @2 S00(8)")
 }
 
-// TestRunNone takes what cannot begin, each time for one thing alone that is as it should not be, which its neighbours are.
-func TestRunNone(t *testing.T) {
-	if got := askedGood().check(t).out; askedGood().endText(got) != "0/11: 5; S01(S00(4) +); S00(8)" {
-		t.Fatalf("the run ended with %v", got)
-	}
+// spoilsOfRun are changes behind which askedGood cannot begin, each for one thing alone that is as it should not be.
+func spoilsOfRun() map[string]func(a *asked) {
 	spoils := map[string]func(a *asked){}
 	for _, n := range []int{-1, 3, 4, math.MaxInt, math.MinInt} {
 		spoils["a module "+strconv.Itoa(n)] = func(a *asked) { a.m = n }
@@ -1498,10 +1529,33 @@ func TestRunNone(t *testing.T) {
 		spoils["vaults with "+name] = func(a *asked) { a.vaults = []impl.Kept{{Owner: 0, Of: v}} }
 		spoils["vaults that end with "+name] = func(a *asked) { a.vaults = append(a.vaults, impl.Kept{Owner: 3, Of: v}) }
 	}
-	for name, spoil := range spoils {
+	return spoils
+}
+
+// runsNone are what cannot begin, under their names.
+func runsNone() map[string]asked {
+	none := map[string]asked{"nothing": {}, "an empty shelf": {shelf: []impl.Module{}, fuel: 9}, "an empty module": {shelf: []impl.Module{{}}, fuel: 9}}
+	for name, spoil := range spoilsOfRun() {
 		a := askedGood()
 		spoil(&a)
+		none[name] = a
+	}
+	for name, shelf := range shelvesNoShape() {
+		none["a shelf: "+name] = asked{shelf: shelf, fuel: 9}
+	}
+	return none
+}
+
+// TestRunNone takes what cannot begin, also for two reasons.
+func TestRunNone(t *testing.T) {
+	if got := askedGood().check(t).out; askedGood().endText(got) != "0/11: 5; S01(S00(4) +); S00(8)" {
+		t.Fatalf("the run ended with %v", got)
+	}
+	for name, a := range runsNone() {
 		checkCannot(t, name, a)
+	}
+	spoils := spoilsOfRun()
+	for name, spoil := range spoils {
 		for _, more := range spoils {
 			b := askedGood()
 			if more(&b); len(b.args) > 0 {
@@ -1512,12 +1566,6 @@ func TestRunNone(t *testing.T) {
 			}
 		}
 	}
-	for name, shelf := range shelvesNoShape() {
-		checkCannot(t, name, asked{shelf: shelf, fuel: 9})
-	}
-	checkCannot(t, "nothing", asked{})
-	checkCannot(t, "an empty shelf", asked{shelf: []impl.Module{}, fuel: 9})
-	checkCannot(t, "an empty module", asked{shelf: []impl.Module{{}}, fuel: 9})
 }
 
 // shelvesNoShape are shelves without the shape, whose first function could be run.
