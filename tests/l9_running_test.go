@@ -71,6 +71,8 @@ type ran struct {
 	made    map[string]int // by the word and the kind, with a blank between
 	modules []int
 	deep    int
+	touched []string // spots, each as the owner and the kind
+	changed []string
 }
 
 // A level is a function within others: where it is, its stack and its places, and its next instruction.
@@ -89,6 +91,7 @@ type running struct {
 	n           int
 	rets        []impl.Value
 	made        map[string]int
+	asks        map[string]bool // by the spot, whether more than `has` and `see` asks for it
 }
 
 // goesOn is the code of an instruction that does not end a run.
@@ -99,7 +102,7 @@ func (a asked) wanted() ran {
 	if !a.okWanted() {
 		return ran{out: impl.Outcome{Code: impl.EndNone}, apart: true}
 	}
-	r := &running{shelf: cloneShelf(a.shelf), kept: map[string]impl.Value{}, owner: a.owner, fuel: a.fuel, made: map[string]int{}}
+	r := &running{shelf: cloneShelf(a.shelf), kept: map[string]impl.Value{}, owner: a.owner, fuel: a.fuel, made: map[string]int{}, asks: map[string]bool{}}
 	for m, module := range r.shelf {
 		for f := range module.Funcs {
 			module.Funcs[f].Takes = []int{0, 1, 2}[:len(r.shelf[m].Records)]
@@ -127,6 +130,7 @@ func (a asked) wanted() ran {
 			told.out = r.outcome(a.vaults, code)
 			slices.Sort(told.modules)
 			told.modules = slices.Compact(told.modules)
+			told.touched, told.changed = r.spots(code)
 			return told
 		}
 		told.apart = told.apart && r.apart()
@@ -144,6 +148,13 @@ func (r *running) outcome(vaults []impl.Kept, code int) impl.Outcome {
 		out.Vaults = append(out.Vaults, impl.Kept{Owner: int(spot[0] - '0'), Of: r.kept[spot]})
 	}
 	return out
+}
+
+// spots are those that a run touches and changes that ends with a code.
+func (r *running) spots(code int) ([]string, []string) {
+	touched := slices.Sorted(maps.Keys(r.asks))
+	changed := slices.DeleteFunc(slices.Clone(touched), func(spot string) bool { return code != impl.EndDone || !r.asks[spot] })
+	return touched, changed
 }
 
 func (r *running) top() *level { return r.levels[len(r.levels)-1] }
@@ -371,6 +382,8 @@ func withPart(v impl.Value, fields []int, part impl.Value) impl.Value {
 func (r *running) stepVault(at *level, i impl.Ins, took []impl.Value) int {
 	o, kind := took[len(took)-1].N, at.ownKind(i.A)
 	spot := strconv.Itoa(o) + " " + kind
+	told := strconv.Itoa(o) + kind
+	r.asks[told] = r.asks[told] || slices.Contains([]string{"keep", "take", "seew"}, i.Op)
 	v, ok := r.kept[spot]
 	if i.Op != "has" && ok == (i.Op == "keep") {
 		return impl.EndVault
@@ -1366,6 +1379,11 @@ func (w *writer) write() []impl.Ins {
 			w.some()
 		}
 	}
+	return w.finish()
+}
+
+// finish mostly ends code with its results.
+func (w *writer) finish() []impl.Ins {
 	for range len(w.s.Stack) {
 		w.clear()
 	}
